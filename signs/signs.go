@@ -1,4 +1,4 @@
-// Package signs reads and writes what the texts of rules and of facts have in common: words, numbers and strings (doc/01-text.md).
+// Package signs reads and writes what the texts of rules and of facts have in common: words, numbers and strings; and it passes over what stands between signs (doc/01-text.md).
 package signs
 
 import (
@@ -21,6 +21,28 @@ const (
 	MaxTerms  = 8
 	MaxDigits = 18
 )
+
+// Skip tells the place behind the blanks and remarks that stand at a place.
+func Skip(s string, at int) int {
+	for at < len(s) {
+		switch s[at] {
+		case ' ', '\t', '\n':
+			at++
+		case '%':
+			at = lineEnd(s, at)
+		default:
+			return at
+		}
+	}
+	return at
+}
+
+func lineEnd(s string, at int) int {
+	if n := strings.IndexByte(s[at:], '\n'); n >= 0 {
+		return at + n
+	}
+	return len(s)
+}
 
 // NameAt tells the NAME that begins at a place, and whether one does.
 func NameAt(s string, at int) (string, bool) {

@@ -177,22 +177,5 @@ func (r *reader) refuse() {
 
 // pass goes to a place, and over the blanks and remarks there.
 func (r *reader) pass(to int) {
-	r.at = to
-	for r.at < len(r.s) {
-		switch r.s[r.at] {
-		case ' ', '\t', '\n':
-			r.at++
-		case '%':
-			r.at = lineEnd(r.s, r.at)
-		default:
-			return
-		}
-	}
-}
-
-func lineEnd(s string, at int) int {
-	if n := strings.IndexByte(s[at:], '\n'); n >= 0 {
-		return at + n
-	}
-	return len(s)
+	r.at = signs.Skip(r.s, to)
 }
