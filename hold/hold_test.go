@@ -22,11 +22,11 @@ func parsed(t *testing.T, s string) api.Program {
 
 func stored(t *testing.T, s string) Store {
 	t.Helper()
-	store := Store{}
+	var l []api.Atom
 	for _, c := range parsed(t, s).Clauses {
-		store.Put(c.Head)
+		l = append(l, c.Head)
 	}
-	return store
+	return Of(l)
 }
 
 func one() api.Term { return api.Term{Kind: 1, Num: 1} }
@@ -72,23 +72,132 @@ func TestWaysWithinWays(t *testing.T) {
 
 func TestReadyAndEnough(t *testing.T) {
 	for _, c := range []struct {
-		body, want string
-		enough     map[string]int
+		given, body, want string
+		enough            map[string]int
 	}{
-		{"q(X)", "q(X)", map[string]int{"p": 0, "p(1)": 0, "p(X)": 1}},
-		{"X<Y, !r(X), q(X), 1<2, q(Y), !z", "1<2 !z q(X) !r(X) q(Y) X<Y", map[string]int{"p": 0, "p(X)": 3, "p(Y,X)": 5, "p(Y)": 5}},
-		{"e(X,Y), X!=Y, e(Y,Z), Z=1, e(U,V)", "e(X,Y) X!=Y e(Y,Z) Z=1 e(U,V)", map[string]int{"p(a)": 0, "p(Y)": 1, "p(X,Z)": 3, "p(V)": 5}},
+		{"", "q(X)", "q(X)", map[string]int{"p": 0, "p(1)": 0, "p(X)": 1}},
+		{"", "X<Y, !r(X), q(X), 1<2, q(Y), !z", "1<2 !z q(X) !r(X) q(Y) X<Y", map[string]int{"p": 0, "p(X)": 3, "p(Y,X)": 5, "p(Y)": 5}},
+		{"", "e(X,Y), X!=Y, e(Y,Z), Z=1, e(U,V)", "e(X,Y) X!=Y e(Y,Z) Z=1 e(U,V)", map[string]int{"p(a)": 0, "p(Y)": 1, "p(X,Z)": 3, "p(V)": 5}},
+		// that one next of which most is known, of several the first one
+		{"", "q(X), q(Y), e(X,Y)", "q(X) e(X,Y) q(Y)", map[string]int{"p(Y)": 2}},
+		{"", "e(X,Y), e(Y,Z), e(1,Z), z, q(a)", "z q(a) e(1,Z) e(Y,Z) e(X,Y)", map[string]int{"p": 0, "p(Z)": 3, "p(X)": 5}},
+		{"", "q(U), n(X,Y,Z), n(1,Y,V), n(V,Y,W)", "n(1,Y,V) n(V,Y,W) n(X,Y,Z) q(U)", nil},
+		{"", "q(V), e(1,X), n(X,X,Y), q(X), n(X,Y,Z)", "e(1,X) q(X) n(X,X,Y) n(X,Y,Z) q(V)", nil},
+		// with values that are given
+		{"e(Y,Z)", "e(X,Y), Z<Y, !q(X), e(U,Z), e(U,X)", "Z<Y e(X,Y) !q(X) e(U,Z) e(U,X)", map[string]int{"p(Y,Z)": 0, "p": 0, "p(X)": 2, "p(Z,U)": 4}},
+		{"e(A,B)", "q(X), q(B), q(A), A!=B", "q(B) q(A) A!=B q(X)", map[string]int{"p(A)": 0, "p(A,X)": 4}},
+		{"q(X)", "", "", map[string]int{"p(X)": 0, "p": 0}},
 	} {
-		body := Ready(parsed(t, "?- "+c.body+".").Queries[0])
-		plain := strings.Join(strings.Split(c.want, " "), ", ")
-		if want := parsed(t, "?- "+plain+".").Queries[0]; !reflect.DeepEqual(body, want) {
-			t.Errorf("Ready(%s) = %v, want %v", c.body, body, want)
+		var given []api.Term
+		if c.given != "" {
+			given = parsed(t, c.given+".").Clauses[0].Head.Terms
+		}
+		body := Ready(bodyOf(t, c.body), given...)
+		if want := bodyOf(t, strings.Join(strings.Split(c.want, " "), ", ")); !reflect.DeepEqual(body, want) {
+			t.Errorf("Ready(%s, %s) = %v, want %v", c.body, c.given, body, want)
 		}
 		for head, want := range c.enough {
-			if n := Enough(body, parsed(t, head+".").Clauses[0].Head); n != want {
-				t.Errorf("Enough(%s, %s) = %d, want %d", c.want, head, n, want)
+			if n := enough(body, parsed(t, head+".").Clauses[0].Head, given...); n != want {
+				t.Errorf("enough(%s, %s, %s) = %d, want %d", c.want, head, c.given, n, want)
 			}
 		}
+	}
+}
+
+// bodyOf is literals, perhaps none.
+func bodyOf(t *testing.T, s string) []api.Literal {
+	t.Helper()
+	if s == "" {
+		return nil
+	}
+	return parsed(t, "?- "+s+".").Queries[0]
+}
+
+func TestReadyChangesNothing(t *testing.T) {
+	body := bodyOf(t, "X<Y, q(X), e(1,Y), z")
+	Ready(body)
+	if want := bodyOf(t, "X<Y, q(X), e(1,Y), z"); !reflect.DeepEqual(body, want) {
+		t.Errorf("the body is %v", body)
+	}
+}
+
+func TestMakes(t *testing.T) {
+	const facts = "e(1,2). e(1,3). e(2,3). q(2). q(3)."
+	for _, c := range []struct{ clause, known, want string }{
+		{"p(X) :- e(X,Y), q(Y).", "", "p(1) p(2)"},
+		{"p(X) :- e(X,Y), q(Y).", "p(1).", "p(2)"},
+		{"p(X) :- e(X,Y), q(Y).", "p(1). p(2). p(3).", ""},
+		{"e(X,Y) :- q(X), q(Y).", facts, "e(2,2) e(3,2) e(3,3)"},
+		{"p :- e(X,Y), q(X).", "", "p"},
+		{"p :- e(X,Y), q(X).", "p.", ""},
+		{"p :- e(X,Y), q(X), Y>3.", "", ""},
+	} {
+		store, known := stored(t, facts), stored(t, c.known)
+		r := RuleOf(parsed(t, c.clause).Clauses[0])
+		var made []string
+		for v := range store.Makes(r, Values{}, known) {
+			a := v.Made(r.Head)
+			made = append(made, text.Show(a))
+			known.Put(a)
+		}
+		if got := strings.Join(made, " "); got != c.want {
+			t.Errorf("E2: %s makes %s, want %s", c.clause, got, c.want)
+		}
+	}
+}
+
+// What comes is told with the values of all variables, and may be left.
+func TestMakesTellsAllValues(t *testing.T) {
+	store := stored(t, "e(1,2). e(2,3). q(2). q(3).")
+	r := RuleOf(parsed(t, "p(X) :- e(X,Y), q(Y), q(Z), Z>Y.").Clauses[0])
+	start := Values{"W": one()}
+	for v := range store.Makes(r, start, Store{}) {
+		if len(v) != 4 || v["X"] != one() || v["Y"].Num != 2 || v["Z"].Num != 3 || v["W"] != one() {
+			t.Errorf("E2: %v", v)
+		}
+		break
+	}
+	if !maps.Equal(start, Values{"W": one()}) {
+		t.Errorf("what is left behind is %v", start)
+	}
+}
+
+func TestStore(t *testing.T) {
+	store := stored(t, "q(2). e(1,2). q(1). e(1,1). q(2). z. q(1,2).")
+	var l []string
+	for _, a := range store.List() {
+		l = append(l, text.Show(a))
+	}
+	if got := strings.Join(l, " "); got != "e(1,1) e(1,2) q(1) q(2) q(1,2) z" {
+		t.Errorf("B1: %s", got)
+	}
+	if l := (Store{}).List(); l != nil {
+		t.Errorf("B4: %v", l)
+	}
+	junk := api.Atom{Name: "q", Terms: []api.Term{{Kind: 1, Num: 7, Text: "junk"}}}
+	store.Put(junk)
+	for a, want := range map[string]bool{"q(1)": true, "q(3)": false, "q(7)": true, "z": true, "y": false, "q": false, "q(1,2)": true, "q(2,1)": false, "q(a)": false, `q("1")`: false} {
+		head := parsed(t, a+".").Clauses[0].Head
+		if store.Has(head) != want {
+			t.Errorf("Has(%s) = %t", a, !want)
+		}
+		ways := 0
+		for range store.Ways(bodyOf(t, a), Values{}) {
+			ways++
+		}
+		if (ways == 1) != want || ways > 1 {
+			t.Errorf("%s holds in %d ways", a, ways)
+		}
+		if store.Passes(api.Literal{Not: true, Atom: head}, Values{}) == want {
+			t.Errorf("Passes(!%s) = %t", a, want)
+		}
+	}
+	store.List()[0].Terms[0] = api.Term{Kind: 2, Text: "gone"}
+	if a := store.List()[0]; text.Show(a) != "e(1,1)" {
+		t.Errorf("G4: %s", text.Show(a))
+	}
+	if junk.Terms[0].Text != "junk" || !reflect.DeepEqual(Bare(junk).Terms[0], api.Term{Kind: 1, Num: 7}) {
+		t.Errorf("%v, %v", junk, Bare(junk))
 	}
 }
 

@@ -2,9 +2,6 @@
 package step
 
 import (
-	"maps"
-	"slices"
-
 	"lore/api"
 	"lore/check"
 	"lore/hold"
@@ -59,33 +56,11 @@ func clauses(s string) []api.Clause {
 }
 
 func makeAll(clauses []api.Clause, facts []api.Atom) []api.Atom {
-	store := hold.Store{}
-	for _, a := range facts {
-		store.Put(a)
-	}
-	m := made{}
+	store, made := hold.Of(facts), hold.Store{}
 	for _, c := range clauses {
-		m.add(c, store)
-	}
-	return rows.Union(slices.Collect(maps.Values(m)), nil)
-}
-
-// made is atoms by their plain forms: no two have the same.
-type made map[string]api.Atom
-
-// add lays to it what a clause makes (E2).
-func (m made) add(c api.Clause, store hold.Store) {
-	body := hold.Ready(c.Body)
-	enough := hold.Enough(body, c.Head)
-	for v := range store.Ways(body[:enough], hold.Values{}) {
-		a := v.Made(c.Head)
-		shown := text.Show(a)
-		if _, there := m[shown]; there {
-			continue
-		}
-		for range store.Ways(body[enough:], v) {
-			m[shown] = a
-			break // the atom is made, however many ways there are more
+		for v := range store.Makes(hold.RuleOf(c), hold.Values{}, made) {
+			made.Put(v.Made(c.Head))
 		}
 	}
+	return made.List()
 }
