@@ -4,8 +4,8 @@ package step
 import (
 	"lore/api"
 	"lore/check"
+	"lore/fit"
 	"lore/hold"
-	"lore/rows"
 	"lore/text"
 )
 
@@ -35,16 +35,10 @@ func refused(s string, facts []api.Atom) (api.Errno, int) {
 	if e != api.OK {
 		return e, place
 	}
-	terms := map[string]int{}
-	for _, l := range levels {
-		terms[l.Name] = l.Terms
-	}
+	terms := fit.Of(levels)
 	for i, a := range facts {
-		if !rows.Fact(a) {
-			return api.ErrFact, i
-		}
-		if n, stands := terms[a.Name]; stands && n != len(a.Terms) {
-			return api.ErrArity, i
+		if e := terms.Look(a); e != api.OK {
+			return e, i
 		}
 	}
 	return api.OK, 0
